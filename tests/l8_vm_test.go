@@ -38,12 +38,10 @@ func judgeOf(x impl.Image) judge {
 // bounded is a number that has to be in from..to.
 type bounded struct{ n, from, to int }
 
+// boundsOf leaves out the notes, for which the document sets no bounds.
 func boundsOf(v impl.Vm) []bounded {
 	l := []bounded{{v.Used, 0, 10}, {v.Code, 0, 4}, {v.Made, 0, 1000000}, {v.Value, least, greatest}}
 	free := slices.Clone(v.Trace)
-	for _, n := range v.Notes {
-		free = append(free, n.Kind, n.Id, n.Site)
-	}
 	for _, f := range v.Frames {
 		free = append(free, f.Id, f.Result, f.Value)
 		free = append(append(free, f.Pile...), f.Vars...)
@@ -936,9 +934,9 @@ func TestBoundsOfMachines(t *testing.T) {
 	for k := range 2 {
 		add("of Trace", least, greatest, func(v *impl.Vm) *int { return &v.Trace[k] })
 	}
-	add("Kind of a note", least, greatest, func(v *impl.Vm) *int { return &v.Notes[0].Kind })
-	add("Id of a note", least, greatest, func(v *impl.Vm) *int { return &v.Notes[0].Id })
-	add("Site of a note", least, greatest, func(v *impl.Vm) *int { return &v.Notes[0].Site })
+	add("Kind of a note", math.MinInt, math.MaxInt, func(v *impl.Vm) *int { return &v.Notes[0].Kind })
+	add("Id of a note", math.MinInt, math.MaxInt, func(v *impl.Vm) *int { return &v.Notes[0].Id })
+	add("Site of a note", math.MinInt, math.MaxInt, func(v *impl.Vm) *int { return &v.Notes[0].Site })
 	for k := range 3 {
 		name := fmt.Sprintf("frame %d: ", k)
 		add(name+"Id", least, greatest, func(v *impl.Vm) *int { return &v.Frames[k].Id })
@@ -960,10 +958,65 @@ func TestBoundsOfMachines(t *testing.T) {
 	checkEdits(t, edits)
 	more := []vmEdit{
 		{"no note", func(v *impl.Vm) { v.Notes = nil }, true}, {"no Trace", func(v *impl.Vm) { v.Trace = nil }, true},
-		{"a second note", func(v *impl.Vm) { v.Notes = append(v.Notes, impl.Note{Kind: 3, Id: greatest + 1}) }, false},
+		{"a second note", func(v *impl.Vm) { v.Notes = append(v.Notes, impl.Note{Kind: 3, Id: greatest + 1}) }, true},
 		{"many notes", func(v *impl.Vm) { v.Notes = slices.Repeat(v.Notes, 3001) }, true}, {"a long Trace", func(v *impl.Vm) { v.Trace = make([]int, 70000) }, true},
 	}
 	checkEdits(t, more)
+}
+
+// oddNotes are notes that no run makes: of each number by itself, and of all at once.
+func oddNotes() []impl.Note {
+	l := []impl.Note{{}, {Kind: 7, Id: -1, Site: 99}, {Kind: math.MinInt, Id: math.MaxInt, Site: math.MinInt}}
+	for _, n := range someInts() {
+		l = append(l, impl.Note{Kind: n}, impl.Note{Kind: impl.NtPut, Id: n}, impl.Note{Kind: impl.NtOff, Site: n}, impl.Note{Kind: n, Id: n, Site: n})
+	}
+	return l
+}
+
+// TestGoodMachinesHaveAnyNotes has them in machines that go on, and in those that have ended.
+func TestGoodMachinesHaveAnyNotes(t *testing.T) {
+	x, high := tall()
+	first, _ := impl.NewVm(x)
+	machines := []impl.Vm{first, high}
+	for code := impl.OcDone; code <= impl.OcDeep; code++ {
+		machines = append(machines, impl.Vm{Code: code})
+	}
+	for _, v := range machines {
+		for _, n := range oddNotes() {
+			v.Notes = []impl.Note{n}
+			if !impl.GoodVm(x, v) {
+				t.Errorf("not good with the note %v: %+v", n, v)
+			}
+		}
+		if v.Notes = oddNotes(); !impl.GoodVm(x, v) {
+			t.Errorf("not good with all of the notes: %+v", v)
+		}
+		// They do not make good what is not.
+		if v.Used = -1; impl.GoodVm(x, v) {
+			t.Errorf("good: %+v", v)
+		}
+	}
+}
+
+// TestStepsKeepAnyNotes has the notes of the steps, of each kind, behind one that was there.
+func TestStepsKeepAnyNotes(t *testing.T) {
+	x, _ := impl.LowerProg(written("defer 1; defer 2; panic 40", "print rec", "print 5"))
+	for _, n := range oddNotes() {
+		v, _ := impl.NewVm(x)
+		v.Notes = []impl.Note{n}
+		for done := 1; v.Code == 0; done++ {
+			want, _ := impl.RunVm(x, nil, 6, done)
+			want.Notes = append([]impl.Note{n}, want.Notes...)
+			w, ok := impl.StepVm(x, nil, 6, v)
+			if !ok || !alikeVm(w, want) || !impl.GoodVm(x, w) {
+				t.Fatalf("step %d with the note %v: %+v, %t, want %+v", done, n, w, ok, want)
+			}
+			v = w
+		}
+		if len(v.Notes) != 8 {
+			t.Errorf("with the note %v: %v", n, v.Notes)
+		}
+	}
 }
 
 func TestCodesOfMachines(t *testing.T) {
@@ -1259,7 +1312,7 @@ func randomVm(r *rand.Rand, j judge) impl.Vm {
 		v.Made = 999995 + r.Intn(6)
 	}
 	for range r.Intn(4) {
-		v.Trace, v.Notes = append(v.Trace, randomNumber(r)), append(v.Notes, impl.Note{Kind: 1 + r.Intn(3), Id: r.Intn(9), Site: r.Intn(4)})
+		v.Trace, v.Notes = append(v.Trace, randomNumber(r)), append(v.Notes, randomNote(r))
 	}
 	switch r.Intn(20) {
 	case 0:
@@ -1268,6 +1321,15 @@ func randomVm(r *rand.Rand, j judge) impl.Vm {
 		v.Code, v.Frames = 1+r.Intn(4), nil
 	}
 	return v
+}
+
+// randomNote is at times one that no run makes.
+func randomNote(r *rand.Rand) impl.Note {
+	if r.Intn(2) == 0 {
+		return impl.Note{Kind: 1 + r.Intn(3), Id: r.Intn(9), Site: r.Intn(4)}
+	}
+	some := someInts()
+	return impl.Note{Kind: some[r.Intn(len(some))], Id: some[r.Intn(len(some))], Site: some[r.Intn(len(some))]}
 }
 
 // randomFrame is at a place where it calls, where there is one and that is asked for, and tells what it calls there, else -1.
@@ -1428,7 +1490,7 @@ func spoilVm(r *rand.Rand, v *impl.Vm) {
 		v.Trace = append(v.Trace, odd)
 		return
 	case 5:
-		v.Notes = append(v.Notes, impl.Note{Kind: 1, Id: odd, Site: r.Intn(3)})
+		v.Notes = append(v.Notes, randomNote(r))
 		return
 	}
 	if len(v.Frames) == 0 {
